@@ -19,6 +19,15 @@ func (a Arena) size() int64 { return int64(len(a.Owner)) }
 // hasVertex reports whether v is a vertex.
 func (a Arena) hasVertex(v int64) bool { return v >= 0 && v < a.size() }
 
+// clone returns a copy that shares no memory with a.
+func (a Arena) clone() Arena {
+	clone := Arena{Owner: slices.Clone(a.Owner)}
+	for _, next := range a.Next {
+		clone.Next = append(clone.Next, slices.Clone(next))
+	}
+	return clone
+}
+
 // preds returns the predecessors of each vertex, in ascending order.
 func (a Arena) preds() [][]int64 {
 	preds := make([][]int64, a.size())
@@ -143,10 +152,9 @@ func Turned(a Arena) Arena {
 	if !ArenaOk(a) {
 		return Arena{}
 	}
-	var turned Arena
+	turned := a.clone()
 	for v, owner := range a.Owner {
-		turned.Owner = append(turned.Owner, 1-owner)
-		turned.Next = append(turned.Next, slices.Clone(a.Next[v]))
+		turned.Owner[v] = 1 - owner
 	}
 	return turned
 }
