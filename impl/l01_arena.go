@@ -19,6 +19,9 @@ func (a Arena) size() int64 { return int64(len(a.Owner)) }
 // hasVertex reports whether v is a vertex.
 func (a Arena) hasVertex(v int64) bool { return v >= 0 && v < a.size() }
 
+// leads reports whether u is a successor of v.
+func (a Arena) leads(v int64, u int64) bool { return slices.Contains(a.Next[v], u) }
+
 // clone returns a copy that shares no memory with a.
 func (a Arena) clone() Arena {
 	clone := Arena{Owner: slices.Clone(a.Owner)}
@@ -135,7 +138,7 @@ func SameArena(a Arena, b Arena) bool {
 
 // EdgeIn reports whether a is valid, v is a vertex of it, and u is a successor of v.
 func EdgeIn(a Arena, v int64, u int64) bool {
-	return ArenaOk(a) && a.hasVertex(v) && slices.Contains(a.Next[v], u)
+	return ArenaOk(a) && a.hasVertex(v) && a.leads(v, u)
 }
 
 // PredsOf returns, in ascending order, the vertices of which u is a successor. It returns nil if
@@ -213,7 +216,7 @@ func LoopsOf(a Arena, set []int64) [][]int64 {
 	for _, v := range slices.Backward(ahead.take()) {
 		back.follow(v)
 		part := back.take()
-		if len(part) > 1 || len(part) == 1 && slices.Contains(a.Next[v], v) {
+		if len(part) > 1 || len(part) == 1 && a.leads(v, v) {
 			slices.Sort(part)
 			loops = append(loops, part)
 		}
